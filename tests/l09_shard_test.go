@@ -78,10 +78,22 @@ func outcomeByHand(s impl.Shard, tx int) int {
 	return code
 }
 
+// writtenByHand does what the record says, without a look at how many pairs there are then.
 func writtenByHand(s impl.Shard, r impl.Rec) impl.Shard {
 	s = copyShard(s)
 	s.Log = append(s.Log, copyRecs([]impl.Rec{r})...)
-	s.Map, s.Held, _ = replayByHand(s.Log)
+	if r.Kind == impl.RecHold {
+		s.Held = append(s.Held, copyRecs([]impl.Rec{r})...)
+	}
+	for i, h := range s.Held {
+		if h.Tx == r.Tx && r.Kind != impl.RecHold {
+			if r.Kind == impl.RecDone {
+				s.Map = doneByHand(s.Map, h.Ops)
+			}
+			s.Held = slices.Delete(s.Held, i, i+1)
+			break
+		}
+	}
 	return s
 }
 
@@ -418,19 +430,56 @@ func TestAllThatIsHeldCanBeDone(t *testing.T) {
 	}
 }
 
-// A shard that holds more keys than Hold would is right, as its records fit; it does of them what MaxPairs leaves room for.
+// A shard that holds more keys than Hold would is right, as its records fit; what it holds is done all the same, though it is not right any more behind it.
 func TestShardsThatHoldTooMuch(t *testing.T) {
-	s := shardBy(t, 1, append(filling(52), holdRecs(2, 8)...), 0)
-	isShard(t, "too much is held", true, s)
-	holds(t, s, 7, opsOf("a=1"), impl.HoldNo)
-	s = decides(t, s, 5000, true, true)
-	next, ok := impl.Decide(s, 5001, true)
-	if ok || !sameShard(next, s) || !impl.ShardOk(next) {
-		t.Errorf("more than MaxPairs are made: %v %v", ok, next)
+	for pairs := 40; pairs <= 60; pairs++ {
+		for _, held := range []struct{ count, orders int }{{1, 1}, {1, 8}, {2, 5}, {3, 8}} {
+			s := shardBy(t, 1, append(filling(pairs), holdRecs(held.count, held.orders)...), 3)
+			isShard(t, "too much is held", true, s)
+			for i := range held.count {
+				tooMany := len(s.Map)+held.orders > 60
+				isShard(t, "let go", true, decides(t, s, 5000+i, false, true))
+				sharesNothing(t, "done", decides(t, s, 5000+i, true, true))
+				next := decides(t, s, 5000+i, true, true)
+				isShard(t, "done", !tooMany, next)
+				if len(next.Map) != len(s.Map)+held.orders || len(next.Held) != len(s.Held)-1 || len(next.Log) != len(s.Log)+1 || next.Sure != 3 {
+					t.Errorf("%d pairs and %d orders: %v", len(s.Map), held.orders, next)
+				}
+				if tooMany {
+					leftAsItIs(t, next, 5000+i)
+					break
+				}
+				s = next
+			}
+		}
 	}
-	hasOutcome(t, next, 5000, impl.HoldDone)
-	hasOutcome(t, next, 5001, impl.HoldYes)
-	decides(t, s, 5001, false, true)
+}
+
+// leftAsItIs asks a shard that has come to too many pairs: it is not right, so nothing more is done with it.
+func leftAsItIs(t *testing.T, s impl.Shard, tx int) {
+	t.Helper()
+	hasOutcome(t, s, tx, impl.HoldForm)
+	decides(t, s, tx, true, false)
+	decides(t, s, tx+1, false, false)
+	holds(t, s, 7, opsOf("a=1"), impl.HoldForm)
+	if next := impl.MakeSure(s); !sameShard(next, s) {
+		t.Errorf("MakeSure of too many pairs: %v", next)
+	}
+	crashes(t, s, 0)
+}
+
+// What makes no new pair is done beside a table that is full, and what is taken away leaves room.
+func TestWhatIsDoneOfAFullTable(t *testing.T) {
+	for text, right := range map[string]bool{"k0000=new": true, "-k0000": true, "a?": true, "-k0000 k00009=1": true, "-a": true, "a=1": false, "-k0000 k00009=1 k00008=1": false, "a=1 b=2 -k0000": false} {
+		s := shardBy(t, 1, append(filling(60), impl.Rec{Kind: impl.RecHold, Tx: 7, Ops: rising(opsOf(text))}), 0)
+		next := decides(t, s, 7, true, true)
+		isShard(t, text, right, next)
+	}
+}
+
+func rising(l []impl.Op) []impl.Op {
+	slices.SortFunc(l, func(a impl.Op, b impl.Op) int { return strings.Compare(a.Key, b.Key) })
+	return l
 }
 
 func TestHowManyRecordsAShardMayHave(t *testing.T) {
