@@ -784,8 +784,8 @@ func smallKey(w impl.World) string {
 	return strings.Join(lines, "\n")
 }
 
-// allSafe goes through all worlds that come of a new one with these orders, by the events of allEvents.
-func allSafe(t *testing.T, n int, words int, lives int, orders []string) seen {
+// allWorlds goes through all worlds that come of a new one with these orders, by the events of allEvents; what check tells of one is wrong with it.
+func allWorlds(t *testing.T, n int, words int, lives int, orders []string, check func(w impl.World) string) seen {
 	m, todo := seen{}, []impl.World{impl.WorldNew(n)}
 	known := map[string]int{smallKey(todo[0]): 1}
 	for i := 0; i < len(todo); i++ {
@@ -799,13 +799,20 @@ func allSafe(t *testing.T, n int, words int, lives int, orders []string) seen {
 			if known[key]++; known[key] > 1 {
 				continue
 			}
-			if got := safetyOf(next); got != (safety{0, 1, 1, 1, 1, 1}) {
-				t.Fatalf("%v: %v, behind\n%s\nit is\n%s", e, got, strings.Join(worldTold(todo[i]), "\n"), key)
+			if wrong := check(next); wrong != "" {
+				t.Fatalf("%v: %s, behind\n%s\nit is\n%s", e, wrong, strings.Join(worldTold(todo[i]), "\n"), key)
 			}
 			todo = append(todo, next)
 		}
 	}
 	return m
+}
+
+func unsafeOf(w impl.World) string {
+	if got := safetyOf(w); got != (safety{0, 1, 1, 1, 1, 1}) {
+		return fmt.Sprint(got)
+	}
+	return ""
 }
 
 // All worlds, not some of them, that come of a new one with few orders and few words on their way are safe.
@@ -825,7 +832,7 @@ func TestAllSmallWorldsAreSafe(t *testing.T) {
 		for i, x := range list {
 			t.Run(fmt.Sprint(x), func(t *testing.T) {
 				t.Parallel()
-				runs[i] = allSafe(t, x.n, x.words, x.lives, x.orders)
+				runs[i] = allWorlds(t, x.n, x.words, x.lives, x.orders, unsafeOf)
 			})
 		}
 	})
